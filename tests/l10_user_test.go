@@ -415,11 +415,12 @@ func badOwn() [][]string {
 
 // addByWords is UserAdd of one's own words, as the document says it.
 func addByWords(own []string, word string) ([]string, bool) {
-	if !impl.WordOk(word) || slices.Contains(own, word) || len(own) >= 10 {
-		return own, false
-	}
 	more := append(slices.Clone(own), word)
 	slices.Sort(more)
+	more = slices.Compact(more)
+	if !impl.WordOk(word) || len(more) > 10 {
+		return own, false
+	}
 	return more, true
 }
 
@@ -435,10 +436,10 @@ func TestUserAddDrop(t *testing.T) {
 		dropped   bool
 		less      string
 	}{
-		{"", "a", true, "a", false, ""}, {"b", "a", true, "a b", false, "b"}, {"b", "c", true, "b c", false, "b"}, {"a c", "b", true, "a b c", false, "a c"}, {"a", "a", false, "a", true, ""}, {"a b c", "a", false, "a b c", true, "b c"}, {"a b c", "b", false, "a b c", true, "a c"}, {"a b c", "c", false, "a b c", true, "a b"},
-		{"cats", "cat", true, "cat cats", false, "cats"}, {"cat", "cats", true, "cat cats", false, "cat"}, {"a", "abcdefghijkl", true, "a abcdefghijkl", false, "a"}, {"abcdefghijkl", "abcdefghijkl", false, "abcdefghijkl", true, ""},
+		{"", "a", true, "a", false, ""}, {"b", "a", true, "a b", false, "b"}, {"b", "c", true, "b c", false, "b"}, {"a c", "b", true, "a b c", false, "a c"}, {"a", "a", true, "a", true, ""}, {"a b c", "a", true, "a b c", true, "b c"}, {"a b c", "b", true, "a b c", true, "a c"}, {"a b c", "c", true, "a b c", true, "a b"},
+		{"cats", "cat", true, "cat cats", false, "cats"}, {"cat", "cats", true, "cat cats", false, "cat"}, {"a", "abcdefghijkl", true, "a abcdefghijkl", false, "a"}, {"abcdefghijkl", "abcdefghijkl", true, "abcdefghijkl", true, ""},
 		{"a b c d e f g h i", "j", true, "a b c d e f g h i j", false, "a b c d e f g h i"}, {"b c d e f g h i j", "a", true, "a b c d e f g h i j", false, "b c d e f g h i j"},
-		{"a b c d e f g h i j", "k", false, "a b c d e f g h i j", false, "a b c d e f g h i j"}, {"a b c d e f g h i j", "aa", false, "a b c d e f g h i j", false, "a b c d e f g h i j"}, {"a b c d e f g h i j", "e", false, "a b c d e f g h i j", true, "a b c d f g h i j"},
+		{"a b c d e f g h i j", "k", false, "a b c d e f g h i j", false, "a b c d e f g h i j"}, {"a b c d e f g h i j", "aa", false, "a b c d e f g h i j", false, "a b c d e f g h i j"}, {"a b c d e f g h i j", "e", true, "a b c d e f g h i j", true, "a b c d f g h i j"},
 	} {
 		own := strings.Fields(c.own)
 		more, added := impl.UserAdd(own, c.word)
@@ -448,6 +449,25 @@ func TestUserAddDrop(t *testing.T) {
 		}
 		wantList(t, c.own+" with "+c.word, more, strings.Fields(c.more)...)
 		wantList(t, c.own+" without "+c.word, less, strings.Fields(c.less)...)
+	}
+}
+
+// P55: each word that is there already may be added, of one word and of UserMax; the same words are told, in new memory.
+func TestUserAddOfWhatIsThere(t *testing.T) {
+	for n := 1; n <= impl.UserMax; n++ {
+		for _, word := range manyWords(n) {
+			own := withRoom(manyWords(n), "zz")
+			kept := allOf(own)
+			more, added := impl.UserAdd(own, word)
+			again, twice := impl.UserAdd(more, word)
+			if !added || !twice {
+				t.Errorf("%q with %q: %v, %v", own, word, added, twice)
+			}
+			wantList(t, "with "+word, more, manyWords(n)...)
+			wantList(t, "with it twice", again, manyWords(n)...)
+			wantApart(t, []place{placeOf("own", own), placeOf("more", more), placeOf("again", again)})
+			wantList(t, "what was handed in", allOf(own), kept...)
+		}
 	}
 }
 
@@ -497,8 +517,16 @@ func TestUserMany(t *testing.T) {
 		if dropped != was || slices.Contains(less, word) || dropped && len(less) != len(own)-1 {
 			t.Fatalf("%q without %q: %q, %v", own, word, less, dropped)
 		}
-		if added {
-			back, _ := impl.UserDrop(more, word)
+		if added && !slices.Contains(more, word) {
+			t.Fatalf("%q with %q: %q", own, word, more)
+		}
+		if added && was {
+			counts["there"]++
+		} else if added {
+			back, ok := impl.UserDrop(more, word)
+			if !ok {
+				t.Fatalf("%q without %q again", more, word)
+			}
 			wantList(t, "without it again", back, own...)
 			counts["added"]++
 		}
@@ -513,7 +541,7 @@ func TestUserMany(t *testing.T) {
 			wantList(t, "without what is not there", less, own...)
 		}
 	}
-	if counts["added"] < 1000 || counts["dropped"] < 1000 {
+	if counts["added"] < 1000 || counts["dropped"] < 1000 || counts["there"] < 1000 {
 		t.Errorf("too few of some kind: %v", counts)
 	}
 }
