@@ -200,16 +200,26 @@ func toldEvent(e impl.Event) string {
 	return fmt.Sprintf("{kind %d, client %d, at %d, %d bytes, %q}", e.Kind, e.Client, e.At, len(e.Text), impl.DeltaPut(e.Delta))
 }
 
-// place is the memory that a list has, spare room included.
+// place is the memory that a list has, spare room included; it is held, so that what comes later cannot be laid there.
 type place struct {
-	what     string
-	from, to uintptr
+	what string
+	held unsafe.Pointer
+	size uintptr
 }
 
 // placeOf is where a list is.
 func placeOf[T any](what string, list []T) place {
-	from := uintptr(unsafe.Pointer(unsafe.SliceData(list)))
-	return place{what: what, from: from, to: from + uintptr(cap(list))*unsafe.Sizeof(*new(T))}
+	return place{what: what, held: unsafe.Pointer(unsafe.SliceData(list)), size: uintptr(cap(list)) * unsafe.Sizeof(*new(T))}
+}
+
+// from is where a place begins.
+func (p place) from() uintptr {
+	return uintptr(p.held)
+}
+
+// to is where a place ends.
+func (p place) to() uintptr {
+	return p.from() + p.size
 }
 
 // placesOfBook is where the lists of a book are.
@@ -232,10 +242,10 @@ func placesOfWorld(what string, w impl.World) []place {
 // wantApart fails if two of some lists share memory.
 func wantApart(t *testing.T, list []place) {
 	t.Helper()
-	list = slices.DeleteFunc(list, func(p place) bool { return p.from == p.to })
-	slices.SortFunc(list, func(a, b place) int { return cmp.Compare(a.from, b.from) })
+	list = slices.DeleteFunc(list, func(p place) bool { return p.size == 0 })
+	slices.SortFunc(list, func(a, b place) int { return cmp.Compare(a.from(), b.from()) })
 	for i := 1; i < len(list); i++ {
-		if list[i].from < list[i-1].to {
+		if list[i].from() < list[i-1].to() {
 			t.Errorf("%s shares memory with %s", list[i-1].what, list[i].what)
 		}
 	}
